@@ -1,0 +1,75 @@
+// Package scour: many patterns are looked for at once: see DOC.md.
+package scour
+
+import (
+	"scour/api"
+	"scour/trie"
+)
+
+// Machine looks for patterns.
+type Machine struct {
+	trie *trie.Trie
+}
+
+// Compile makes patterns into a machine (P2).
+func Compile(patterns [][]byte) (*Machine, api.Errno, int) {
+	if e, at := check(patterns); e != api.OK {
+		return nil, e, at
+	}
+	return &Machine{trie: trie.New(patterns)}, api.OK, 0
+}
+
+// check tells what keeps patterns from being compiled, and the number of the pattern that does.
+func check(patterns [][]byte) (api.Errno, int) {
+	if len(patterns) > api.MaxPatterns {
+		return api.ErrMany, 0
+	}
+	total := 0
+	for i, p := range patterns {
+		if len(p) == 0 {
+			return api.ErrEmpty, i
+		}
+		if len(p) > api.MaxLength {
+			return api.ErrLong, i
+		}
+		total += len(p)
+	}
+	// Not earlier: a pattern that is empty or too long goes first, wherever it stands.
+	if total > api.MaxTotal {
+		return api.ErrTotal, 0
+	}
+	return api.OK, 0
+}
+
+// Patterns tells what it looks for (P3).
+func (m *Machine) Patterns() [][]byte {
+	return m.trie.Patterns()
+}
+
+// States tells how many states there are (P3).
+func (m *Machine) States() int {
+	return m.trie.Len()
+}
+
+// Next tells which state comes behind one by a byte (P3).
+func (m *Machine) Next(state int, b byte) (int, api.Errno) {
+	if state < 0 || state >= m.trie.Len() {
+		return 0, api.ErrArg
+	}
+	return m.trie.Next(state, b), api.OK
+}
+
+// Save writes a machine as a file (P4).
+func (m *Machine) Save() []byte { return nil }
+
+// Load reads a file (P5).
+func Load(b []byte) (*Machine, api.Errno) { return nil, api.OK }
+
+// Scanner looks through bytes as they come.
+type Scanner struct{}
+
+// Scan begins (P6).
+func (m *Machine) Scan() *Scanner { return nil }
+
+// Feed takes bytes; what ends in them (P6).
+func (s *Scanner) Feed(b []byte) []api.Match { return nil }
