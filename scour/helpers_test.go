@@ -125,7 +125,7 @@ func smallLists() [][]string {
 func drawnLists() [][]string {
 	r := rand.New(rand.NewSource(7))
 	var lists [][]string
-	for _, alphabet := range []string{"a", "ab", "abc", "\x00\xff", "\x00\x01\x7f\x80\xff", "\xff\x00a"} {
+	for _, alphabet := range []string{"a", "ab", "abc", "\x00\xff", "\x00\x01\x7f\x80\xff", "\xff\x00a", "abcdefgh"} {
 		for range 30 {
 			var l []string
 			for range 1 + r.Intn(8) {
@@ -164,5 +164,44 @@ func fullLists() map[string][]string {
 		lists["drawn long"] = append(lists["drawn long"], drawn(r, "ab", api.MaxLength))
 		lists["far fails"] = append(lists["far fails"], long(api.MaxLength-1-i)+strings.Repeat("b", i+1))
 	}
+	lists["many cells"] = manyCells()
 	return lists
+}
+
+// manyCells tells patterns in which most states end with an a, and in which nearly as many bytes as there are patterns come behind an a: each such state has an exception for each such byte.
+func manyCells() []string {
+	const deep = 6
+	var l []string
+	for i := range deep {
+		l = append(l, string([]byte{byte(i)})+long(api.MaxLength-1))
+	}
+	for i := deep; i < api.MaxPatterns; i++ {
+		l = append(l, "a"+string([]byte{byte(255 - i)}))
+	}
+	rest := api.MaxTotal - deep*api.MaxLength - 2*(api.MaxPatterns-deep)
+	l[deep] += strings.Repeat("\xff", rest)
+	return l
+}
+
+// eachByteOnce tells patterns that have so many bytes together, and each of them once: one class a byte, one state a byte and one.
+func eachByteOnce(n int) []string {
+	var l []string
+	b := make([]byte, n)
+	for i := range b {
+		b[i] = byte(i)
+	}
+	for piece := range slices.Chunk(b, api.MaxLength) {
+		l = append(l, string(piece))
+	}
+	return l
+}
+
+// checkManyLists checks small, drawn and full lists.
+func checkManyLists(t *testing.T, check func(t *testing.T, patterns []string)) {
+	for _, l := range slices.Concat(smallLists(), drawnLists()) {
+		check(t, l)
+	}
+	for name, l := range fullLists() {
+		t.Run(name, func(t *testing.T) { check(t, l) })
+	}
 }

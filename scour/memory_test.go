@@ -56,13 +56,21 @@ func TestCompileWritesIntoNothing(t *testing.T) {
 	}
 }
 
-// answers is all that a machine tells by the calls of these promises.
+// answers is all that a machine tells.
 type answers struct {
 	patterns []string
 	next     []int
+	file     string
 }
 
 func ask(m *scour.Machine) answers {
+	a := askUnsaved(m)
+	a.file = string(m.Save())
+	return a
+}
+
+// askUnsaved asks all but for the file, of a machine that may never have been saved.
+func askUnsaved(m *scour.Machine) answers {
 	a := answers{patterns: texts(m.Patterns())}
 	for state := range m.States() {
 		for b := range 256 {
@@ -74,7 +82,7 @@ func ask(m *scour.Machine) answers {
 }
 
 func (a answers) equal(b answers) bool {
-	return slices.Equal(a.patterns, b.patterns) && slices.Equal(a.next, b.next)
+	return slices.Equal(a.patterns, b.patterns) && slices.Equal(a.next, b.next) && a.file == b.file
 }
 
 func memoryLists() [][]string {
@@ -127,14 +135,41 @@ func TestListsThatComeOutAreTheCallers(t *testing.T) {
 		if !ask(m).equal(before) {
 			t.Fatalf("P1: of %q: writing into a list that came out changed later answers", texts)
 		}
+		fill(m.Save(), 'z')
+		if !ask(m).equal(before) {
+			t.Fatalf("P1: of %q: writing into a file that came out changed later answers", texts)
+		}
+	}
+}
+
+func TestAFileThatCameOutStays(t *testing.T) {
+	m := compile(t, list("he", "she", "hers"))
+	out := m.Save()
+	before := bytes.Clone(out)
+	fill(m.Save(), 'z')
+	ask(m)
+	compile(t, list("other", "patterns")).Save()
+	if !bytes.Equal(out, before) {
+		t.Error("P1: a file that came out was changed by later calls")
+	}
+}
+
+func TestSaveChangesNothing(t *testing.T) {
+	for _, texts := range memoryLists() {
+		m := compile(t, list(texts...))
+		before := askUnsaved(m)
+		m.Save()
+		if !askUnsaved(m).equal(before) {
+			t.Fatalf("P1: of %q: Save changed what Patterns, States and Next tell", texts)
+		}
 	}
 }
 
 func TestNoTwoListsShareMemory(t *testing.T) {
 	for _, texts := range append(memoryLists(), slices.Repeat([]string{"ab"}, api.MaxPatterns)) {
 		m := compile(t, list(texts...))
-		// Two answers at once: each is new memory, so theirs is not shared either.
-		all := slices.Concat(m.Patterns(), m.Patterns())
+		// Two answers of each call at once: each is new memory, so theirs is not shared either.
+		all := slices.Concat(m.Patterns(), [][]byte{m.Save()}, m.Patterns(), [][]byte{m.Save()})
 		for i, p := range all {
 			fill(p, byte(i))
 		}

@@ -3,12 +3,15 @@ package scour
 
 import (
 	"scour/api"
+	"scour/file"
+	"scour/pack"
 	"scour/trie"
 )
 
 // Machine looks for patterns.
 type Machine struct {
-	trie *trie.Trie
+	trie  *trie.Trie
+	table *pack.Table
 }
 
 // Compile makes patterns into a machine (P2).
@@ -16,7 +19,8 @@ func Compile(patterns [][]byte) (*Machine, api.Errno, int) {
 	if e, at := check(patterns); e != api.OK {
 		return nil, e, at
 	}
-	return &Machine{trie: trie.New(patterns)}, api.OK, 0
+	t := trie.New(patterns)
+	return &Machine{trie: t, table: pack.New(t)}, api.OK, 0
 }
 
 // check tells what keeps patterns from being compiled, and the number of the pattern that does.
@@ -60,7 +64,9 @@ func (m *Machine) Next(state int, b byte) (int, api.Errno) {
 }
 
 // Save writes a machine as a file (P4).
-func (m *Machine) Save() []byte { return nil }
+func (m *Machine) Save() []byte {
+	return file.Write(m.trie, m.table)
+}
 
 // Load reads a file (P5).
 func Load(b []byte) (*Machine, api.Errno) { return nil, api.OK }

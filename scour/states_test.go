@@ -74,22 +74,8 @@ func checkNoSuchState(t *testing.T, m *scour.Machine) {
 	}
 }
 
-func TestSmallListsByTheWords(t *testing.T) {
-	for _, l := range smallLists() {
-		checkByWords(t, l)
-	}
-}
-
-func TestDrawnListsByTheWords(t *testing.T) {
-	for _, l := range drawnLists() {
-		checkByWords(t, l)
-	}
-}
-
-func TestFullListsByTheWords(t *testing.T) {
-	for name, l := range fullLists() {
-		t.Run(name, func(t *testing.T) { checkByWords(t, l) })
-	}
+func TestStatesByTheWords(t *testing.T) {
+	checkManyLists(t, checkByWords)
 }
 
 func TestEveryByteAlone(t *testing.T) {

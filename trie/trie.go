@@ -7,24 +7,24 @@ import (
 	"slices"
 )
 
-// state is a beginning of patterns. State 0, the empty one, has neither parent nor last byte.
-type state struct {
-	parent int
-	last   byte
-	fail   int
+// State is a beginning of patterns. State 0, the empty one, has neither parent nor last byte nor fail.
+type State struct {
+	Parent int
+	Last   byte
+	Fail   int
 }
 
 // Trie has the states of a list of patterns in the document's order, and of each pattern the state that it is.
 //
 // In that order the states (but 0) stand sorted by parent, then by last byte: find leans on it.
 type Trie struct {
-	states []state
+	states []State
 	ends   []int
 }
 
 // New makes the trie of patterns. It keeps nothing of them.
 func New(patterns [][]byte) *Trie {
-	t := &Trie{states: make([]state, 1), ends: make([]int, len(patterns))}
+	t := &Trie{states: make([]State, 1), ends: make([]int, len(patterns))}
 	order := sorted(patterns)
 	for length := 1; len(order) > 0; length++ {
 		order = slices.DeleteFunc(order, func(i int) bool { return len(patterns[i]) < length })
@@ -49,7 +49,7 @@ func sorted(patterns [][]byte) []int {
 // As the order is that of the patterns, equal beginnings come one behind the other: it is enough to look at the newest state.
 func (t *Trie) addLevel(patterns [][]byte, order []int, length int) {
 	for _, i := range order {
-		s := state{parent: t.ends[i], last: patterns[i][length-1]}
+		s := State{Parent: t.ends[i], Last: patterns[i][length-1]}
 		newest := len(t.states) - 1
 		if newest == 0 || compare(t.states[newest], s) != 0 {
 			t.states = append(t.states, s)
@@ -64,27 +64,37 @@ func (t *Trie) setFails() {
 	for i := 1; i < len(t.states); i++ {
 		s := &t.states[i]
 		// A state of one byte would find itself: its only lesser ending is the empty one.
-		if s.parent != 0 {
-			s.fail = t.Next(t.states[s.parent].fail, s.last)
+		if s.Parent != 0 {
+			s.Fail = t.Next(t.states[s.Parent].Fail, s.Last)
 		}
 	}
 }
 
 // compare sorts states by parent, then by last byte.
-func compare(a, b state) int {
-	return cmp.Or(cmp.Compare(a.parent, b.parent), cmp.Compare(a.last, b.last))
+func compare(a, b State) int {
+	return cmp.Or(cmp.Compare(a.Parent, b.Parent), cmp.Compare(a.Last, b.Last))
 }
 
 // find tells the state that is another with a byte behind it, and whether there is one.
 func (t *Trie) find(parent int, b byte) (int, bool) {
 	// State 0 is left out: it is nobody's child, but looks like one of its own.
-	i, ok := slices.BinarySearchFunc(t.states[1:], state{parent: parent, last: b}, compare)
+	i, ok := slices.BinarySearchFunc(t.states[1:], State{Parent: parent, Last: b}, compare)
 	return i + 1, ok
 }
 
 // Len tells how many states there are.
 func (t *Trie) Len() int {
 	return len(t.states)
+}
+
+// At tells a state, which must be there, by its number.
+func (t *Trie) At(state int) State {
+	return t.states[state]
+}
+
+// Ends tells the states that the patterns are, in the order of the patterns, in new memory.
+func (t *Trie) Ends() []int {
+	return slices.Clone(t.ends)
 }
 
 // Next tells NEXT of a state, which must be there, and a byte.
@@ -97,7 +107,7 @@ func (t *Trie) Next(from int, b byte) int {
 		if from == 0 {
 			return 0
 		}
-		from = t.states[from].fail
+		from = t.states[from].Fail
 	}
 }
 
@@ -113,8 +123,8 @@ func (t *Trie) Patterns() [][]byte {
 // spell tells the bytes of a state.
 func (t *Trie) spell(at int) []byte {
 	var b []byte
-	for ; at != 0; at = t.states[at].parent {
-		b = append(b, t.states[at].last)
+	for ; at != 0; at = t.states[at].Parent {
+		b = append(b, t.states[at].Last)
 	}
 	slices.Reverse(b)
 	return b

@@ -32,7 +32,7 @@ func TestStatesOfTheExample(t *testing.T) {
 		t.Errorf("patterns are the states %d, want %d", m.ends, want)
 	}
 	for i, want := range []int{0, 0, 0, 0, 1, 0, 3, 2} {
-		if got := m.states[i].fail; got != want {
+		if got := m.states[i].Fail; got != want {
 			t.Errorf("FAIL of %d is %d, want %d", i, got, want)
 		}
 	}
@@ -65,7 +65,7 @@ func TestFailByTheWord(t *testing.T) {
 			for !slices.Contains(states, want) {
 				want = want[1:]
 			}
-			if got := states[m.states[i+1].fail]; got != want {
+			if got := states[m.states[i+1].Fail]; got != want {
 				t.Errorf("of %q: FAIL of %q is %q, want %q", patterns, s, got, want)
 			}
 		}
@@ -82,5 +82,17 @@ func TestNextOfLongestWay(t *testing.T) {
 	}
 	if got := m.Next(m.Len()-1, 'c'); got != 0 {
 		t.Errorf("NEXT of the longest state and c is %d", got)
+	}
+}
+
+func TestEndsAreNewMemory(t *testing.T) {
+	m := trieOf("b", "a", "b")
+	ends := m.Ends()
+	if want := []int{2, 1, 2}; !slices.Equal(ends, want) {
+		t.Errorf("patterns are the states %d, want %d", ends, want)
+	}
+	clear(ends[:cap(ends)])
+	if want := []int{2, 1, 2}; !slices.Equal(m.Ends(), want) {
+		t.Errorf("later the patterns are the states %d, want %d", m.Ends(), want)
 	}
 }
