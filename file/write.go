@@ -1,4 +1,4 @@
-// Package file: a machine as the bytes of a file.
+// Package file: a machine as the bytes of a file, and the patterns out of such bytes.
 package file
 
 import (
@@ -24,8 +24,7 @@ func Write(t *trie.Trie, p *pack.Table) []byte {
 	w.patterns(t.Ends())
 	w.offsets(p.Offsets)
 	w.cells(p.Cells)
-	w.seal()
-	return w.b
+	return append(w.b, seal(w.b)...)
 }
 
 // number writes a NUMBER: seven bits a byte, the lowest first.
@@ -75,10 +74,4 @@ func (w *writer) cells(cells []pack.Cell) {
 		w.number(c.State + 1)
 		w.number(c.Next)
 	}
-}
-
-// seal writes the SUM of all that is written so far.
-func (w *writer) seal() {
-	s := sum(w.b)
-	w.b = append(w.b, byte(s>>24), byte(s>>16), byte(s>>8), byte(s))
 }

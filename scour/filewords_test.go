@@ -41,8 +41,9 @@ func (m model) exceptions(state int, classes []byte) map[int]int {
 	return next
 }
 
+// cell is one as it is written: its mark is one more than its state's number. A free one is all noughts.
 type cell struct {
-	state, next int
+	mark, next int
 }
 
 // packing is how the ROWS of a model are packed: each state's offset, and what is in the cells that are taken.
@@ -51,10 +52,9 @@ type packing struct {
 	cells   map[int]cell
 }
 
-func (m model) packed() packing {
+func (m model) packed(classes []byte) packing {
 	p := packing{make([]int, len(m.states)), map[int]cell{}}
 	left := map[int]map[int]int{}
-	classes := m.classes()
 	for state := range m.states {
 		if row := m.exceptions(state, classes); len(row) > 0 {
 			left[state] = row
@@ -84,7 +84,7 @@ func (p packing) lay(state int, row map[int]int) {
 		p.offsets[state]++
 	}
 	for class, next := range row {
-		p.cells[p.offsets[state]+class] = cell{state, next}
+		p.cells[p.offsets[state]+class] = cell{state + 1, next}
 	}
 }
 
@@ -118,7 +118,7 @@ func number(n int) []byte {
 
 // sum is the SUM: all bits and 32 noughts behind them, divided as one learns it at school.
 func sum(b []byte) []byte {
-	var bits []byte
+	bits := make([]byte, 0, 8*len(b)+32)
 	for _, c := range b {
 		for i := range 8 {
 			bits = append(bits, c>>(7-i)&1)
@@ -140,31 +140,106 @@ func sum(b []byte) []byte {
 	return left
 }
 
-// fileByWords is the file of patterns.
-func fileByWords(patterns []string) []byte {
-	m := modelOf(patterns)
-	p := m.packed()
-	b := slices.Concat([]byte("SCR\x01"), number(len(m.classes())), m.classes(), number(len(m.states)))
+// sealed is bytes with their SUM behind them.
+func sealed(b []byte) []byte {
+	return slices.Concat(b, sum(b))
+}
+
+// entry is what a file has of a state.
+type entry struct {
+	parent int
+	last   byte
+	fail   int
+}
+
+// draft is a file in its parts, ahead of being written.
+type draft struct {
+	classes  []byte
+	states   []entry // but 0
+	patterns []int
+	offsets  []int
+	cells    []cell
+}
+
+// draft makes the file of patterns out of a model's states and of classes.
+func (m model) draft(patterns []string, classes []byte) draft {
+	p := m.packed(classes)
+	d := draft{classes: classes, offsets: p.offsets, cells: make([]cell, p.size())}
 	for state, s := range m.states {
 		if state > 0 {
 			last := len(s) - 1
-			b = slices.Concat(b, number(m.number[s[:last]]), []byte{s[last]}, number(m.fail(state)))
+			d.states = append(d.states, entry{m.number[s[:last]], s[last], m.fail(state)})
 		}
 	}
-	b = append(b, number(len(patterns))...)
 	for _, pattern := range patterns {
-		b = append(b, number(m.number[pattern])...)
+		d.patterns = append(d.patterns, m.number[pattern])
 	}
-	for _, offset := range p.offsets {
-		b = append(b, number(offset)...)
+	for at, c := range p.cells {
+		d.cells[at] = c
 	}
-	b = append(b, number(p.size())...)
-	for at := range p.size() {
-		if c, taken := p.cells[at]; taken {
-			b = slices.Concat(b, number(c.state+1), number(c.next))
-		} else {
-			b = append(b, 0)
+	return d
+}
+
+func draftOf(patterns []string) draft {
+	m := modelOf(patterns)
+	return m.draft(patterns, m.classes())
+}
+
+// piece is a NUMBER of a file, or a byte.
+type piece struct {
+	b        []byte
+	isNumber bool
+}
+
+// pieces tells all that stands between the head and the sum.
+func (d draft) pieces() []piece {
+	var l []piece
+	addByte := func(b byte) { l = append(l, piece{[]byte{b}, false}) }
+	addNumber := func(n int) { l = append(l, piece{number(n), true}) }
+	addNumber(len(d.classes))
+	for _, b := range d.classes {
+		addByte(b)
+	}
+	addNumber(len(d.states) + 1)
+	for _, e := range d.states {
+		addNumber(e.parent)
+		addByte(e.last)
+		addNumber(e.fail)
+	}
+	addNumber(len(d.patterns))
+	for _, state := range d.patterns {
+		addNumber(state)
+	}
+	for _, offset := range d.offsets {
+		addNumber(offset)
+	}
+	addNumber(len(d.cells))
+	for _, c := range d.cells {
+		addNumber(c.mark)
+		if c.mark > 0 {
+			addNumber(c.next)
 		}
 	}
-	return append(b, sum(b)...)
+	return l
+}
+
+// head is what a file begins with.
+const head = "SCR\x01"
+
+// body is pieces as a file has them, ahead of the sum.
+func body(pieces []piece) []byte {
+	b := []byte(head)
+	for _, p := range pieces {
+		b = append(b, p.b...)
+	}
+	return b
+}
+
+func (d draft) file() []byte {
+	return sealed(body(d.pieces()))
+}
+
+// fileByWords is the file of patterns.
+func fileByWords(patterns []string) []byte {
+	return draftOf(patterns).file()
 }

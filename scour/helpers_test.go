@@ -1,6 +1,7 @@
 package scour_test
 
 import (
+	"maps"
 	"math/rand"
 	"slices"
 	"strings"
@@ -54,22 +55,25 @@ type model struct {
 }
 
 func modelOf(patterns []string) model {
-	number := map[string]int{"": 0}
+	beginnings := map[string]bool{"": true}
 	for _, p := range patterns {
 		for n := range len(p) {
-			number[p[:n+1]] = 0
+			beginnings[p[:n+1]] = true
 		}
 	}
-	var states []string
-	for s := range number {
-		states = append(states, s)
-	}
+	states := slices.Collect(maps.Keys(beginnings))
 	slices.SortFunc(states, func(a, b string) int {
 		if len(a) != len(b) {
 			return len(a) - len(b)
 		}
 		return strings.Compare(a, b)
 	})
+	return numbered(states)
+}
+
+// numbered makes a model of states in an order.
+func numbered(states []string) model {
+	number := map[string]int{}
 	for i, s := range states {
 		number[s] = i
 	}

@@ -119,26 +119,31 @@ func fill(p []byte, b byte) {
 
 func TestListsThatComeOutAreTheCallers(t *testing.T) {
 	for _, texts := range memoryLists() {
-		m := compile(t, list(texts...))
-		before := ask(m)
-		out := m.Patterns()
-		for _, p := range out {
-			fill(p, 'z')
-		}
-		if !ask(m).equal(before) {
-			t.Fatalf("P1: of %q: writing into patterns that came out changed later answers", texts)
-		}
-		out = out[:cap(out)]
-		for i := range out {
-			out[i] = []byte("other")
-		}
-		if !ask(m).equal(before) {
-			t.Fatalf("P1: of %q: writing into a list that came out changed later answers", texts)
-		}
-		fill(m.Save(), 'z')
-		if !ask(m).equal(before) {
-			t.Fatalf("P1: of %q: writing into a file that came out changed later answers", texts)
-		}
+		checkListsAreTheCallers(t, texts, compile(t, list(texts...)))
+		checkListsAreTheCallers(t, texts, load(t, fileByWords(texts)))
+	}
+}
+
+func checkListsAreTheCallers(t *testing.T, texts []string, m *scour.Machine) {
+	t.Helper()
+	before := ask(m)
+	out := m.Patterns()
+	for _, p := range out {
+		fill(p, 'z')
+	}
+	if !ask(m).equal(before) {
+		t.Fatalf("P1: of %q: writing into patterns that came out changed later answers", texts)
+	}
+	out = out[:cap(out)]
+	for i := range out {
+		out[i] = []byte("other")
+	}
+	if !ask(m).equal(before) {
+		t.Fatalf("P1: of %q: writing into a list that came out changed later answers", texts)
+	}
+	fill(m.Save(), 'z')
+	if !ask(m).equal(before) {
+		t.Fatalf("P1: of %q: writing into a file that came out changed later answers", texts)
 	}
 }
 
@@ -197,6 +202,8 @@ func TestNoCallChangesAMachine(t *testing.T) {
 		checkNoSuchState(t, m)
 		scour.Compile(list("other", "patterns"))
 		scour.Compile(list("other", ""))
+		scour.Load(fileByWords([]string{"other", "patterns"}))
+		scour.Load([]byte("no file"))
 		if !ask(m).equal(before) {
 			t.Fatalf("P1: of %q: a call changed the machine", texts)
 		}

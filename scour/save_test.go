@@ -3,6 +3,7 @@ package scour_test
 import (
 	"bytes"
 	"slices"
+	"strings"
 	"testing"
 )
 
@@ -55,11 +56,7 @@ func TestFilesWrittenOut(t *testing.T) {
 			[]string{"\x02ab", "\x06\x00a\x00\x00b\x00\x01a\x01\x01b\x02\x02a\x01", "\x04\x03\x04\x05\x03",
 				"\x00\x00\x06\x02\x07\x04", "\x09\x00\x02\x03\x02\x04\x04\x03\x04\x04\x06\x03\x06\x04\x03\x05\x05\x05"}},
 	} {
-		want := []byte("SCR\x01")
-		for _, part := range k.parts {
-			want = append(want, part...)
-		}
-		want = append(want, sum(want)...)
+		want := sealed([]byte(head + strings.Join(k.parts, "")))
 		if got := compile(t, k.patterns).Save(); !bytes.Equal(got, want) {
 			t.Errorf("P4: %s: Save() = %q, want %q", k.name, got, want)
 		}
@@ -92,7 +89,7 @@ func TestFilesWithNumbersOfOneByteAndMore(t *testing.T) {
 
 // It is one of the full lists, so its file is held against the words there.
 func TestAFullListHasNumbersOfThreeBytes(t *testing.T) {
-	if n := modelOf(manyCells()).packed().size(); n < 1<<14 {
+	if n := len(draftOf(manyCells()).cells); n < 1<<14 {
 		t.Errorf("the list has only %d cells", n)
 	}
 }

@@ -2,6 +2,9 @@
 package scour
 
 import (
+	"bytes"
+	"errors"
+
 	"scour/api"
 	"scour/file"
 	"scour/pack"
@@ -69,7 +72,19 @@ func (m *Machine) Save() []byte {
 }
 
 // Load reads a file (P5).
-func Load(b []byte) (*Machine, api.Errno) { return nil, api.OK }
+func Load(b []byte) (*Machine, api.Errno) {
+	patterns, err := file.Read(b)
+	var f file.Fault
+	if errors.As(err, &f) {
+		return nil, f.Errno
+	}
+	m, e, _ := Compile(patterns)
+	// Reading looks for the patterns alone: only the file that they are saved as is one.
+	if e != api.OK || !bytes.Equal(m.Save(), b) {
+		return nil, api.ErrForm
+	}
+	return m, api.OK
+}
 
 // Scanner looks through bytes as they come.
 type Scanner struct{}
