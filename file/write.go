@@ -23,7 +23,7 @@ func Write(t *trie.Trie, p *pack.Table) []byte {
 	w.states(t)
 	w.patterns(t.Ends())
 	w.offsets(p.Offsets)
-	w.cells(p.Cells)
+	w.cells(p.Cells[:p.Size])
 	return append(w.b, seal(w.b)...)
 }
 
@@ -67,7 +67,7 @@ func (w *writer) offsets(offsets []int) {
 func (w *writer) cells(cells []pack.Cell) {
 	w.number(len(cells))
 	for _, c := range cells {
-		if c.State == 0 {
+		if c.State == pack.Free {
 			w.number(0)
 			continue
 		}

@@ -1,4 +1,4 @@
-// Package pack: the exceptions of a machine's states, packed into cells.
+// Package pack: the exceptions of a machine's states, packed into cells, and the step from state to state by them.
 package pack
 
 import (
@@ -8,7 +8,10 @@ import (
 	"scour/trie"
 )
 
-// Cell has a state, and the one that is its NEXT. A free cell has state 0, which has no exceptions and so no cells.
+// Free stands in a free cell for its state. It is no state's number: so no state, not even 0, takes a free cell for its own.
+const Free = -1
+
+// Cell has a state, and the one that is its NEXT.
 type Cell struct {
 	State, Next int
 }
@@ -17,7 +20,11 @@ type Cell struct {
 type Table struct {
 	Classes []byte // the lesser first; the first one's class is 1
 	Offsets []int
-	Cells   []Cell // up to the last one that is taken
+	Cells   []Cell // one for each offset and class together, free ones behind the last that is taken too
+	Size    int    // how many there are up to the last one that is taken
+
+	class [256]int // of each byte; 0, if it has none
+	first []int    // by class: NEXT of state 0
 }
 
 // New packs the rows of a trie.
@@ -27,6 +34,9 @@ func New(t *trie.Trie) *Table {
 	for left.Len() > 0 {
 		p.lay(heap.Pop(left).(row))
 	}
+	p.Size = len(p.Cells)
+	p.reach(slices.Max(p.Offsets) + len(p.Classes))
+	p.setFirst(t)
 	return p
 }
 
@@ -55,7 +65,7 @@ func (p *Table) lay(r row) {
 // fits tells whether all cells of a row are free at an offset; those behind the last one that is taken are.
 func (p *Table) fits(r row, offset int) bool {
 	for _, e := range r.exceptions {
-		if at := offset + e.class; at < len(p.Cells) && p.Cells[at].State != 0 {
+		if at := offset + e.class; at < len(p.Cells) && p.Cells[at].State != Free {
 			return false
 		}
 	}
@@ -64,8 +74,22 @@ func (p *Table) fits(r row, offset int) bool {
 
 // take puts something into a cell, behind the last one that is taken too.
 func (p *Table) take(at int, c Cell) {
-	for len(p.Cells) <= at {
-		p.Cells = append(p.Cells, Cell{})
-	}
+	p.reach(at)
 	p.Cells[at] = c
+}
+
+// reach adds free cells till there is one with that number.
+func (p *Table) reach(at int) {
+	for len(p.Cells) <= at {
+		p.Cells = append(p.Cells, Cell{State: Free})
+	}
+}
+
+// setFirst notes each byte's class, and NEXT of state 0 by it. Bytes without a class have 0 for both, as they stand in no pattern.
+func (p *Table) setFirst(t *trie.Trie) {
+	p.first = make([]int, len(p.Classes)+1)
+	for i, b := range p.Classes {
+		p.class[b] = i + 1
+		p.first[i+1] = t.Next(0, b)
+	}
 }

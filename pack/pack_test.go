@@ -17,6 +17,7 @@ func trieOf(patterns ...string) *trie.Trie {
 }
 
 func TestTables(t *testing.T) {
+	free := Cell{State: Free}
 	for _, k := range []struct {
 		patterns []string
 		classes  string
@@ -26,12 +27,12 @@ func TestTables(t *testing.T) {
 		{nil, "", []int{0}, nil},
 		{[]string{"\xff", "\x00"}, "\x00\xff", []int{0, 0, 0}, nil},
 		{[]string{"he", "she", "hers"}, "ehrs", []int{0, 0, 0, 0, 3, 1, 3, 5},
-			[]Cell{{}, {1, 3}, {2, 4}, {3, 5}, {4, 6}, {5, 7}, {6, 5}, {7, 4}}},
-		{[]string{"ba", "bc"}, "abc", []int{0, 0, 0, 0}, []Cell{{}, {1, 2}, {}, {1, 3}}},
+			[]Cell{free, {1, 3}, {2, 4}, {3, 5}, {4, 6}, {5, 7}, {6, 5}, {7, 4}}},
+		{[]string{"ba", "bc"}, "abc", []int{0, 0, 0, 0}, []Cell{free, {1, 2}, free, {1, 3}}},
 		{[]string{"aa", "ab", "ba"}, "ab", []int{0, 0, 6, 2, 7, 4},
-			[]Cell{{}, {1, 3}, {1, 4}, {3, 3}, {3, 4}, {5, 3}, {5, 4}, {2, 5}, {4, 5}}},
+			[]Cell{free, {1, 3}, {1, 4}, {3, 3}, {3, 4}, {5, 3}, {5, 4}, {2, 5}, {4, 5}}},
 		{[]string{"ba", "bd", "ab", "c"}, "abcd", []int{0, 1, 0, 0, 1, 4, 0},
-			[]Cell{{}, {2, 5}, {4, 5}, {1, 4}, {2, 6}, {4, 6}, {5, 4}}},
+			[]Cell{free, {2, 5}, {4, 5}, {1, 4}, {2, 6}, {4, 6}, {5, 4}}},
 	} {
 		p := New(trieOf(k.patterns...))
 		if string(p.Classes) != k.classes {
@@ -40,31 +41,42 @@ func TestTables(t *testing.T) {
 		if !slices.Equal(p.Offsets, k.offsets) {
 			t.Errorf("of %q: offsets %d, want %d", k.patterns, p.Offsets, k.offsets)
 		}
-		if !slices.Equal(p.Cells, k.cells) {
-			t.Errorf("of %q: cells %d, want %d", k.patterns, p.Cells, k.cells)
+		if got := p.Cells[:p.Size]; !slices.Equal(got, k.cells) {
+			t.Errorf("of %q: cells %d, want %d", k.patterns, got, k.cells)
+		}
+		for _, c := range p.Cells[p.Size:] {
+			if c != free {
+				t.Errorf("of %q: behind the last cell that is taken there is %d", k.patterns, c)
+			}
 		}
 	}
 }
 
-// next is NEXT as a table tells it: what is no exception is as of state 0.
-func (p *Table) next(t *trie.Trie, state int, b byte) int {
-	class := slices.Index(p.Classes, b) + 1
-	if at := p.Offsets[state] + class; at < len(p.Cells) && p.Cells[at].State == state {
-		return p.Cells[at].Next
+func fewLists() [][]string {
+	return [][]string{
+		nil, {"a"}, {"\x00"}, {"\xff"}, {"he", "she", "hers"}, {"ba", "bd", "ab", "c"}, {"abab", "bab", "ab"}, {"abcabcabd", "bcab", "ca", "d"}, {"\x00\x00\xff", "\x00\xff\x00", "\xff"},
 	}
-	return t.Next(0, b)
 }
 
-func TestTableTellsNext(t *testing.T) {
-	for _, patterns := range [][]string{
-		nil, {"a"}, {"he", "she", "hers"}, {"abab", "bab", "ab"}, {"abcabcabd", "bcab", "ca", "d"}, {"\x00\x00\xff", "\x00\xff\x00", "\xff"},
-	} {
+func TestEachOffsetAndClassHaveACell(t *testing.T) {
+	for _, patterns := range fewLists() {
+		p := New(trieOf(patterns...))
+		for state, offset := range p.Offsets {
+			if last := offset + len(p.Classes); last >= len(p.Cells) {
+				t.Errorf("of %q: state %d may look at cell %d, but there are %d", patterns, state, last, len(p.Cells))
+			}
+		}
+	}
+}
+
+func TestStepTellsNext(t *testing.T) {
+	for _, patterns := range fewLists() {
 		m := trieOf(patterns...)
-		p := New(m)
-		for state := 1; state < m.Len(); state++ {
+		step := New(m).Step()
+		for state := range m.Len() {
 			for b := range 256 {
-				if got, want := p.next(m, state, byte(b)), m.Next(state, byte(b)); got != want {
-					t.Errorf("of %q: NEXT of %d and %q is %d, want %d", patterns, state, byte(b), got, want)
+				if got, want := step(state, byte(b)), m.Next(state, byte(b)); got != want {
+					t.Errorf("of %q: the step from %d by %q leads to %d, want %d", patterns, state, byte(b), got, want)
 				}
 			}
 		}

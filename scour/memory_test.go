@@ -3,6 +3,7 @@ package scour_test
 import (
 	"bytes"
 	"slices"
+	"strings"
 	"sync"
 	"testing"
 	"unsafe"
@@ -60,6 +61,7 @@ func TestCompileWritesIntoNothing(t *testing.T) {
 type answers struct {
 	patterns []string
 	next     []int
+	told     []api.Match
 	file     string
 }
 
@@ -72,6 +74,7 @@ func ask(m *scour.Machine) answers {
 // askUnsaved asks all but for the file, of a machine that may never have been saved.
 func askUnsaved(m *scour.Machine) answers {
 	a := answers{patterns: texts(m.Patterns())}
+	a.told = m.Scan().Feed([]byte(strings.Join(a.patterns, "") + strings.Join(a.patterns, "a")))
 	for state := range m.States() {
 		for b := range 256 {
 			n, _ := m.Next(state, byte(b))
@@ -82,7 +85,7 @@ func askUnsaved(m *scour.Machine) answers {
 }
 
 func (a answers) equal(b answers) bool {
-	return slices.Equal(a.patterns, b.patterns) && slices.Equal(a.next, b.next) && a.file == b.file
+	return slices.Equal(a.patterns, b.patterns) && slices.Equal(a.next, b.next) && slices.Equal(a.told, b.told) && a.file == b.file
 }
 
 func memoryLists() [][]string {

@@ -6,6 +6,7 @@ import (
 	"errors"
 
 	"scour/api"
+	"scour/ends"
 	"scour/file"
 	"scour/pack"
 	"scour/trie"
@@ -15,6 +16,7 @@ import (
 type Machine struct {
 	trie  *trie.Trie
 	table *pack.Table
+	ends  *ends.Table
 }
 
 // Compile makes patterns into a machine (P2).
@@ -23,7 +25,7 @@ func Compile(patterns [][]byte) (*Machine, api.Errno, int) {
 		return nil, e, at
 	}
 	t := trie.New(patterns)
-	return &Machine{trie: t, table: pack.New(t)}, api.OK, 0
+	return &Machine{trie: t, table: pack.New(t), ends: ends.New(t)}, api.OK, 0
 }
 
 // check tells what keeps patterns from being compiled, and the number of the pattern that does.
@@ -86,11 +88,26 @@ func Load(b []byte) (*Machine, api.Errno) {
 	return m, api.OK
 }
 
-// Scanner looks through bytes as they come.
-type Scanner struct{}
+// Scanner looks through bytes as they come. All that it keeps of them is the state to which they led, and how many they were.
+type Scanner struct {
+	step  func(state int, b byte) int
+	ends  *ends.Table
+	state int
+	count int
+}
 
 // Scan begins (P6).
-func (m *Machine) Scan() *Scanner { return nil }
+func (m *Machine) Scan() *Scanner {
+	return &Scanner{step: m.table.Step(), ends: m.ends}
+}
 
 // Feed takes bytes; what ends in them (P6).
-func (s *Scanner) Feed(b []byte) []api.Match { return nil }
+func (s *Scanner) Feed(b []byte) []api.Match {
+	var told []api.Match
+	for _, c := range b {
+		s.state = s.step(s.state, c)
+		s.count++
+		told = s.ends.Append(told, s.state, s.count)
+	}
+	return told
+}
